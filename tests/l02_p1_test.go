@@ -180,32 +180,39 @@ func wipe(values ...any) {
 	}
 }
 
+// checkPureCall makes a call with arguments that have some lists: the lists stay as
+// they are, and the results are equal each time and are new memory.
+func checkPureCall(t *testing.T, name string, lists []any, call func() []any) {
+	t.Helper()
+	before := contents(lists...)
+	have, again := call(), call()
+	told := fmt.Sprintf("%#v", have)
+	if contents(lists...) != before {
+		t.Fatalf("%s: an argument is modified", name)
+	}
+	if fmt.Sprintf("%#v", again) != told {
+		t.Fatalf("%s: first %v and then %v", name, have, again)
+	}
+	if overlap(append(memoryOf(lists...), append(memoryOf(have...), memoryOf(again...)...)...)) {
+		t.Fatalf("%s: a result shares memory", name)
+	}
+	wipe(again...)
+	if contents(lists...) != before || fmt.Sprintf("%#v", have) != told {
+		t.Fatalf("%s: the result is memory of something else", name)
+	}
+	wipe(lists...)
+	if fmt.Sprintf("%#v", have) != told {
+		t.Fatalf("%s: the result is memory of an argument", name)
+	}
+}
+
 func (s *situation) lists() []any { return []any{s.p, s.q, s.e, s.d, s.args} }
 
 func TestP1ProgramsAreNotModifiedAndResultsAreNewMemory(t *testing.T) {
 	for _, plain := range situations() {
 		for _, f := range programFunctions() {
 			s := roomySituation(plain)
-			before := contents(s.lists()...)
-			have, again := f.call(s), f.call(s)
-			told := fmt.Sprintf("%#v", have)
-			if contents(s.lists()...) != before {
-				t.Fatalf("%s modifies an argument of %v", f.name, plain)
-			}
-			if fmt.Sprintf("%#v", again) != told {
-				t.Fatalf("%s of %v: first %v and then %v", f.name, plain, have, again)
-			}
-			if overlap(append(memoryOf(s.lists()...), append(memoryOf(have...), memoryOf(again...)...)...)) {
-				t.Fatalf("a result of %s of %v shares memory", f.name, plain)
-			}
-			wipe(again...)
-			if contents(s.lists()...) != before || fmt.Sprintf("%#v", have) != told {
-				t.Fatalf("the result of %s of %v is memory of something else", f.name, plain)
-			}
-			wipe(s.lists()...)
-			if fmt.Sprintf("%#v", have) != told {
-				t.Fatalf("the result of %s of %v is memory of an argument", f.name, plain)
-			}
+			checkPureCall(t, fmt.Sprintf("%s of %v", f.name, plain), s.lists(), func() []any { return f.call(s) })
 		}
 	}
 }

@@ -71,26 +71,7 @@ func TestP1DerivativesModifyNothingAndAreNewMemory(t *testing.T) {
 	for _, plain := range questions(t) {
 		for _, f := range forwardFunctions() {
 			q := roomyQuestion(plain)
-			before := contents(q.lists()...)
-			have, again := f.call(q), f.call(q)
-			told := fmt.Sprintf("%#v", have)
-			if contents(q.lists()...) != before {
-				t.Fatalf("%s modifies an argument of %v", f.name, plain)
-			}
-			if fmt.Sprintf("%#v", again) != told {
-				t.Fatalf("%s of %v: first %v and then %v", f.name, plain, have, again)
-			}
-			if overlap(append(memoryOf(q.lists()...), append(memoryOf(have...), memoryOf(again...)...)...)) {
-				t.Fatalf("a result of %s of %v shares memory", f.name, plain)
-			}
-			wipe(again...)
-			if contents(q.lists()...) != before || fmt.Sprintf("%#v", have) != told {
-				t.Fatalf("the result of %s of %v is memory of something else", f.name, plain)
-			}
-			wipe(q.lists()...)
-			if fmt.Sprintf("%#v", have) != told {
-				t.Fatalf("the result of %s of %v is memory of an argument", f.name, plain)
-			}
+			checkPureCall(t, fmt.Sprintf("%s of %v", f.name, plain), q.lists(), func() []any { return f.call(q) })
 		}
 	}
 }
