@@ -113,6 +113,11 @@ func textOf(p impl.Program, e impl.Expr) string {
 	for _, kid := range e.Kids {
 		kids = append(kids, textOf(p, kid))
 	}
+	return nodeText(p, e, kids)
+}
+
+// nodeText is the text of a node above the texts of its kids.
+func nodeText(p impl.Program, e impl.Expr, kids []string) string {
 	all := strings.Join(kids, "; ")
 	switch e.Kind {
 	case impl.KNum:

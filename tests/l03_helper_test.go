@@ -298,30 +298,33 @@ func (a jet) seriesOf(order int64) []int64 {
 	return list
 }
 
-// jetReckoning is an evaluation with polynomials in place of numbers, which
-// panics with the code of an error. It is another one than that of the program.
-type jetReckoning struct {
-	p             impl.Program
-	degree, steps int64
+// reckoner is an evaluation with values of some kind, which panics with the code of
+// an error. It is another one than that of the program.
+type reckoner[V any] struct {
+	p      impl.Program
+	steps  int64
+	number func(number int64) V
+	isZero func(condition V) bool
+	reckon func(kind int64, kids []V) V
 }
 
-func (r *jetReckoning) value(e impl.Expr, vars []jet) jet {
+func (r *reckoner[V]) value(e impl.Expr, vars []V) V {
 	if r.steps++; r.steps > impl.MaxSteps {
 		panic(int64(impl.ErrBudget))
 	}
 	if e.Kind == impl.KIf {
-		if r.value(e.Kids[0], vars)[exponents{}] == 0 {
+		if r.isZero(r.value(e.Kids[0], vars)) {
 			return r.value(e.Kids[1], vars)
 		}
 		return r.value(e.Kids[2], vars)
 	}
-	var kids []jet
+	var kids []V
 	for _, kid := range e.Kids {
 		kids = append(kids, r.value(kid, slices.Concat(vars, kids[:min(len(kids), letsOf(e))])))
 	}
 	switch e.Kind {
 	case impl.KNum:
-		return constantJet(e.Num)
+		return r.number(e.Num)
 	case impl.KVar:
 		return vars[e.Num]
 	case impl.KLet:
@@ -334,10 +337,31 @@ func (r *jetReckoning) value(e impl.Expr, vars []jet) jet {
 		}
 		return kids[e.Pick]
 	}
-	return r.arithmetic(e.Kind, kids)
+	return r.reckon(e.Kind, kids)
 }
 
-func (r *jetReckoning) arithmetic(kind int64, kids []jet) jet {
+func (r *reckoner[V]) outs(f int64, args []V) []V {
+	var list []V
+	for _, out := range r.p.Funcs[f].Outs {
+		list = append(list, r.value(out, args))
+	}
+	return list
+}
+
+// reckonedWith are the values of all outputs of a function, and OK.
+func reckonedWith[V any](r *reckoner[V], f int64, args []V) (outs []V, code int64) {
+	defer func() {
+		if fault := recover(); fault != nil {
+			outs, code = nil, fault.(int64)
+		}
+	}()
+	return r.outs(f, args), impl.OK
+}
+
+// jetReckoning does the operations of polynomials up to a degree.
+type jetReckoning struct{ degree int64 }
+
+func (r jetReckoning) arithmetic(kind int64, kids []jet) jet {
 	switch kind {
 	case impl.KAdd:
 		return kids[0].plus(1, kids[1])
@@ -354,23 +378,10 @@ func (r *jetReckoning) arithmetic(kind int64, kids []jet) jet {
 	return kids[0].over(kids[1], r.degree)
 }
 
-func (r *jetReckoning) outs(f int64, args []jet) []jet {
-	var list []jet
-	for _, out := range r.p.Funcs[f].Outs {
-		list = append(list, r.value(out, args))
-	}
-	return list
-}
-
 // jetsOf are the polynomials of all outputs of a function, and OK.
-func jetsOf(p impl.Program, f int64, args []jet, degree int64) (outs []jet, code int64) {
-	defer func() {
-		if fault := recover(); fault != nil {
-			outs, code = nil, fault.(int64)
-		}
-	}()
-	r := &jetReckoning{p: p, degree: degree}
-	return r.outs(f, args), impl.OK
+func jetsOf(p impl.Program, f int64, args []jet, degree int64) ([]jet, int64) {
+	beginsWithZero := func(a jet) bool { return a[exponents{}] == 0 }
+	return reckonedWith(&reckoner[jet]{p: p, number: constantJet, isZero: beginsWithZero, reckon: jetReckoning{degree}.arithmetic}, f, args)
 }
 
 // jetsAt are the polynomials of all outputs of a function of at most three
