@@ -122,6 +122,10 @@ func isNothing(results []any) bool {
 			if result.Vars != 0 || len(result.Terms) > 0 {
 				return false
 			}
+		case impl.Usage:
+			if result != (impl.Usage{}) {
+				return false
+			}
 		default:
 			if text := fmt.Sprint(result); text != "0" && text != "[]" && text != "{[]}" && text != "false" {
 				return false
