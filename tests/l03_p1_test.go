@@ -15,23 +15,33 @@ func (q *question) lists() []any { return []any{q.p, q.args, q.dir, q.params, q.
 // contents.
 func roomyQuestion(q question) question {
 	q.p, q.args, q.dir, q.params = roomyProgram(q.p), roomy(q.args), roomy(q.dir), roomy(q.params)
-	var path [][]int64
-	for _, list := range q.path {
-		path = append(path, roomy(list))
-	}
-	q.path = append(path, roomy([]int64{spare}), roomy([]int64{spare}))[:len(q.path)]
+	q.path = roomyRows(q.path)
 	return q
+}
+
+// roomyRows is a copy in which all lists have unused capacity with known contents.
+func roomyRows(rows [][]int64) [][]int64 {
+	var copies [][]int64
+	for _, row := range rows {
+		copies = append(copies, roomy(row))
+	}
+	return append(copies, roomy([]int64{spare}), roomy([]int64{spare}))[:len(rows)]
 }
 
 // emptyQuestion is a copy with empty lists in place of all that are nil.
 func emptyQuestion(q question) question {
 	q.p, q.args, q.dir, q.params = emptyProgram(q.p), append([]int64{}, q.args...), append([]int64{}, q.dir...), append([]int64{}, q.params...)
-	path := [][]int64{}
-	for _, list := range q.path {
-		path = append(path, append([]int64{}, list...))
-	}
-	q.path = path
+	q.path = emptyRows(q.path)
 	return q
+}
+
+// emptyRows is a copy with empty lists in place of all that are nil.
+func emptyRows(rows [][]int64) [][]int64 {
+	copies := [][]int64{}
+	for _, row := range rows {
+		copies = append(copies, append([]int64{}, row...))
+	}
+	return copies
 }
 
 // questions have valid and invalid arguments of all kinds. Many functions return

@@ -23,11 +23,7 @@ func roomyTape(tape impl.Tape) impl.Tape {
 func roomyTapeQuestion(q tapeQuestion) tapeQuestion {
 	q.t, q.other, q.p = roomyTape(q.t), roomyTape(q.other), roomyProgram(q.p)
 	q.args, q.dir, q.weights = roomy(q.args), roomy(q.dir), roomy(q.weights)
-	var path [][]int64
-	for _, list := range q.path {
-		path = append(path, roomy(list))
-	}
-	q.path = append(path, roomy([]int64{spare}), roomy([]int64{spare}))[:len(q.path)]
+	q.path = roomyRows(q.path)
 	return q
 }
 
@@ -35,11 +31,7 @@ func roomyTapeQuestion(q tapeQuestion) tapeQuestion {
 func emptyTapeQuestion(q tapeQuestion) tapeQuestion {
 	q.t, q.other, q.p = emptyTape(q.t), emptyTape(q.other), emptyProgram(q.p)
 	q.args, q.dir, q.weights = append([]int64{}, q.args...), append([]int64{}, q.dir...), append([]int64{}, q.weights...)
-	path := [][]int64{}
-	for _, list := range q.path {
-		path = append(path, append([]int64{}, list...))
-	}
-	q.path = path
+	q.path = emptyRows(q.path)
 	return q
 }
 

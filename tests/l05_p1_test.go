@@ -44,15 +44,17 @@ func roomySymbolic(q symbolicQuestion) symbolicQuestion {
 	return q
 }
 
+// emptyPoly is a copy with empty lists in place of all that are nil.
+func emptyPoly(a impl.Poly) impl.Poly {
+	terms := []impl.Term{}
+	for _, term := range a.Terms {
+		terms = append(terms, impl.Term{Exps: append([]int64{}, term.Exps...), Coef: term.Coef})
+	}
+	return polyWith(a.Vars, terms...)
+}
+
 // emptySymbolic is a copy with empty lists in place of all that are nil.
 func emptySymbolic(q symbolicQuestion) symbolicQuestion {
-	emptyPoly := func(a impl.Poly) impl.Poly {
-		terms := []impl.Term{}
-		for _, term := range a.Terms {
-			terms = append(terms, impl.Term{Exps: append([]int64{}, term.Exps...), Coef: term.Coef})
-		}
-		return polyWith(a.Vars, terms...)
-	}
 	emptyRule := func(r impl.Rule) impl.Rule {
 		r.Left.Kids, r.Right.Kids = emptyExprs(r.Left.Kids), emptyExprs(r.Right.Kids)
 		return r

@@ -8,30 +8,14 @@ import (
 	"loop.example/g01091/impl"
 )
 
-// checkpointFault has the changes that make one thing wrong in arguments, and the code
-// that tells it.
-type checkpointFault struct {
-	code    int64
-	changes []func(q *checkpointQuestion)
-}
-
-// faultOf makes a fault by all values that a field can be changed to.
-func faultOf[T any](code int64, field func(q *checkpointQuestion) *T, values ...T) checkpointFault {
-	fault := checkpointFault{code: code}
-	for _, value := range values {
-		fault.changes = append(fault.changes, func(q *checkpointQuestion) { *field(q) = value })
-	}
-	return fault
-}
-
 // checkpointFaults are all faults by their names.
-func checkpointFaults(t *testing.T) map[string]checkpointFault {
+func checkpointFaults(t *testing.T) map[string]fault[checkpointQuestion] {
 	listOf := func(q *checkpointQuestion) *[]impl.Action { return &q.list }
 	slotsOf := func(q *checkpointQuestion) *int64 { return &q.slots }
 	wOf := func(q *checkpointQuestion) *[]int64 { return &q.w }
 	argsOf := func(q *checkpointQuestion) *[]int64 { return &q.args }
 	reverse := []impl.Action{action(impl.CkReverse, 0)}
-	return map[string]checkpointFault{
+	return map[string]fault[checkpointQuestion]{
 		"p":        faultOf(impl.ErrInvalid, func(q *checkpointQuestion) *impl.Program { return &q.p }, faultyPrograms()...),
 		"list":     faultOf(impl.ErrInvalid, listOf, faultySchedules()...),
 		"w":        faultOf(impl.ErrInvalid, wOf, make([]int64, 41), []int64{-1}, []int64{1001, 1, 1}, []int64{1, 1, math.MinInt64}, []int64{1, math.MaxInt64, 1}, append(ones(40), -1)),
@@ -96,6 +80,7 @@ func fill(q *checkpointQuestion) {
 // all that are told later.
 func TestP15P16P17P18ErrorsComeInOrder(t *testing.T) {
 	faults, used := checkpointFaults(t), map[string]bool{}
+	asked := func() checkpointQuestion { return checkpointAsked(t) }
 	for _, f := range checkpointFunctions() {
 		if !f.hasCode() {
 			continue
@@ -105,22 +90,10 @@ func TestP15P16P17P18ErrorsComeInOrder(t *testing.T) {
 			want = impl.ErrNotFound
 		}
 		expectCheckpoint(t, f, checkpointAsked(t), want)
-		for k, name := range f.faults {
-			used[name] = true
-			for _, change := range faults[name].changes {
-				q := checkpointAsked(t)
-				change(&q)
-				expectCheckpoint(t, f, q, faults[name].code)
-				for _, later := range f.faults[k+1:] {
-					for _, other := range faults[later].changes {
-						q := checkpointAsked(t)
-						other(&q)
-						change(&q)
-						expectCheckpoint(t, f, q, faults[name].code)
-					}
-				}
-			}
-		}
+		inOrder(faults, f.faults, used, asked, func(q checkpointQuestion, want int64) {
+			t.Helper()
+			expectCheckpoint(t, f, q, want)
+		})
 	}
 	if len(used) != len(faults) {
 		t.Errorf("%d of %d faults", len(used), len(faults))

@@ -143,12 +143,55 @@ func checkpointAsked(t *testing.T) checkpointQuestion {
 // this is an error.
 func expectCheckpoint(t *testing.T, f checkpointFunction, q checkpointQuestion, want int64) {
 	t.Helper()
-	have := f.call(q)
+	expectResults(t, f.name, q, f.call(q), want)
+}
+
+// expectResults fails the test unless the results for some arguments end with a code,
+// and have nothing beside it if this is an error.
+func expectResults(t *testing.T, name string, q any, have []any, want int64) {
+	t.Helper()
 	if codeOf(have) != want {
-		t.Errorf("%s of %s: %s, want the code %d", f.name, brief(q), brief(have), want)
+		t.Errorf("%s of %s: %s, want the code %d", name, brief(q), brief(have), want)
 	}
 	if codeOf(have) != impl.OK && !isNothing(have[:len(have)-1]) {
-		t.Errorf("%s of %s: %s beside the code %d", f.name, brief(q), brief(have), codeOf(have))
+		t.Errorf("%s of %s: %s beside the code %d", name, brief(q), brief(have), codeOf(have))
+	}
+}
+
+// fault has the changes that make one thing wrong in arguments, and the code that
+// tells it.
+type fault[Q any] struct {
+	code    int64
+	changes []func(q *Q)
+}
+
+// faultOf makes a fault by all values that a field can be changed to.
+func faultOf[Q, T any](code int64, field func(q *Q) *T, values ...T) fault[Q] {
+	result := fault[Q]{code: code}
+	for _, value := range values {
+		result.changes = append(result.changes, func(q *Q) { *field(q) = value })
+	}
+	return result
+}
+
+// inOrder calls a test with each fault alone, and with each one together with all that
+// are told later, and writes down which ones there are.
+func inOrder[Q any](faults map[string]fault[Q], names []string, used map[string]bool, asked func() Q, expect func(q Q, want int64)) {
+	for k, name := range names {
+		used[name] = true
+		for _, change := range faults[name].changes {
+			q := asked()
+			change(&q)
+			expect(q, faults[name].code)
+			for _, later := range names[k+1:] {
+				for _, other := range faults[later].changes {
+					q := asked()
+					other(&q)
+					change(&q)
+					expect(q, faults[name].code)
+				}
+			}
+		}
 	}
 }
 
