@@ -2,6 +2,7 @@ package tests
 
 import (
 	"fmt"
+	"reflect"
 	"slices"
 	"strings"
 	"testing"
@@ -110,29 +111,30 @@ func expectSymbolicCode(t *testing.T, name string, q symbolicQuestion, want int6
 	}
 }
 
-// isNothing tells whether all results are zero values, or empty lists.
+// isNothing tells whether all results are zero values, in which lists may be empty.
 func isNothing(results []any) bool {
 	for _, result := range results {
-		switch result := result.(type) {
-		case impl.Expr:
-			if !impl.SameExpr(result, impl.Expr{}) {
-				return false
-			}
-		case impl.Poly:
-			if result.Vars != 0 || len(result.Terms) > 0 {
-				return false
-			}
-		case impl.Usage:
-			if result != (impl.Usage{}) {
-				return false
-			}
-		default:
-			if text := fmt.Sprint(result); text != "0" && text != "[]" && text != "{[]}" && text != "false" {
-				return false
-			}
+		if !isBlank(reflect.ValueOf(result)) {
+			return false
 		}
 	}
 	return true
+}
+
+// isBlank tells whether a value is a zero value, in which lists may be empty.
+func isBlank(v reflect.Value) bool {
+	switch v.Kind() {
+	case reflect.Slice:
+		return v.Len() == 0
+	case reflect.Struct:
+		for k := range v.NumField() {
+			if !isBlank(v.Field(k)) {
+				return false
+			}
+		}
+		return true
+	}
+	return v.IsZero()
 }
 
 // polyWith is a polynomial with some terms.

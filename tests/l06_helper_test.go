@@ -158,6 +158,29 @@ func expectResults(t *testing.T, name string, q any, have []any, want int64) {
 	}
 }
 
+// sameAnswers fails the test unless a call has the same results for arguments and for
+// copies of them, and returns these.
+func sameAnswers[Q any](t *testing.T, name string, call func(q Q) []any, q Q, copies ...Q) []any {
+	t.Helper()
+	have := call(q)
+	for _, other := range copies {
+		if a, b := fmt.Sprint(have...), fmt.Sprint(call(other)...); a != b {
+			t.Fatalf("%s of %s: %s, and of a copy %s", name, brief(q), a, b)
+		}
+	}
+	return have
+}
+
+// countCode counts how often functions have which codes, and fails the test if there is
+// something beside an error.
+func countCode(t *testing.T, codes map[string]int, name string, have []any) {
+	t.Helper()
+	codes[fmt.Sprint(name, " ", codeOf(have))]++
+	if codeOf(have) != impl.OK && !isNothing(have[:len(have)-1]) {
+		t.Errorf("%s returns %s", name, brief(have))
+	}
+}
+
 // fault has the changes that make one thing wrong in arguments, and the code that
 // tells it.
 type fault[Q any] struct {

@@ -77,19 +77,9 @@ func TestP1EqualCheckpointQuestionsHaveEqualAnswers(t *testing.T) {
 	codes := map[string]int{}
 	for _, q := range checkpointQuestions(t) {
 		for _, f := range checkpointFunctions() {
-			results := f.call(q)
-			have := fmt.Sprint(results...)
-			for _, other := range []checkpointQuestion{roomyCheckpoint(q), emptyCheckpoint(q)} {
-				if again := fmt.Sprint(f.call(other)...); again != have {
-					t.Fatalf("%s of %s: %s, and of a copy %s", f.name, brief(q), have, again)
-				}
-			}
-			if !f.hasCode() {
-				continue
-			}
-			codes[fmt.Sprint(f.name, " ", codeOf(results))]++
-			if codeOf(results) != impl.OK && !isNothing(results[:len(results)-1]) {
-				t.Errorf("%s of %s returns %s", f.name, brief(q), have)
+			have := sameAnswers(t, f.name, f.call, q, roomyCheckpoint(q), emptyCheckpoint(q))
+			if f.hasCode() {
+				countCode(t, codes, f.name, have)
 			}
 		}
 	}

@@ -105,17 +105,8 @@ func TestP1EqualSolverQuestionsHaveEqualAnswers(t *testing.T) {
 	codes := map[string]int{}
 	for _, q := range solverQuestions(t) {
 		for _, f := range solverFunctions() {
-			results := f.call(q)
-			have := fmt.Sprint(results...)
-			for _, other := range []solverQuestion{roomySolver(q), emptySolver(q)} {
-				if again := fmt.Sprint(f.call(other)...); again != have {
-					t.Fatalf("%s of %s: %s, and of a copy %s", f.name, brief(q), have, again)
-				}
-			}
-			codes[fmt.Sprint(f.name, " ", codeOf(results))]++
-			if codeOf(results) != impl.OK && !isNothing(results[:len(results)-1]) {
-				t.Errorf("%s of %s returns %s", f.name, brief(q), have)
-			}
+			have := sameAnswers(t, f.name, f.call, q, roomySolver(q), emptySolver(q))
+			countCode(t, codes, f.name, have)
 		}
 	}
 	for _, f := range solverFunctions() {
